@@ -268,10 +268,11 @@ func TestWide(t *testing.T) {
 }
 
 // P13.2: all ways in which three formulas need two inputs and one another, each of which
-// is the same whatever it needs, or is not.
+// is the same whatever it needs, or is not; the fields from the first to the last, and the
+// other way.
 func TestAllWays(t *testing.T) {
 	names := []string{"a", "b", "x", "y", "z"}
-	for bits := range 1 << 12 {
+	for bits := range 1 << 13 {
 		l := []api.Field{in("a", api.Int), in("b", api.Int)}
 		left := bits
 		for i := 2; i < 5; i++ {
@@ -285,7 +286,7 @@ func TestAllWays(t *testing.T) {
 			}
 			l = append(l, by(names[i], formula+")"))
 		}
-		if bits%2 == 1 {
+		if left == 1 {
 			slices.Reverse(l)
 		}
 		s := made(t, l...)
